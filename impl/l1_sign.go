@@ -16,27 +16,25 @@ const signBytes = "-0+"
 // grid is a table with as many rows as columns; whoever makes one of an argument has checked that with isSquare.
 type grid [][]int
 
-// newGrid allocates each row by itself, so that no two rows of a result share memory.
-func newGrid(n int) grid {
-	g := make(grid, n)
-	for i := range g {
-		g[i] = make([]int, n)
+// newTable allocates each row by itself, so that no two rows of a result share memory.
+func newTable(rows, columns int) [][]int {
+	t := make([][]int, rows)
+	for i := range t {
+		t[i] = make([]int, columns)
 	}
-	return g
+	return t
+}
+
+func newGrid(n int) grid { return newTable(n, n) }
+
+func hasSize(t [][]int, rows, columns int) bool {
+	return len(t) == rows && !slices.ContainsFunc(t, func(row []int) bool { return len(row) != columns })
 }
 
 // isSquare comes before every other check, as only then indexes are safe.
 func isSquare(m [][]int) bool {
 	n := len(m)
-	if n < 1 || n > MaxSide {
-		return false
-	}
-	for _, row := range m {
-		if len(row) != n {
-			return false
-		}
-	}
-	return true
+	return n >= 1 && n <= MaxSide && hasSize(m, n, n)
 }
 
 // sumOf adds up what value tells of each item: of the numbers of a row, or of the rows of a grid.

@@ -86,6 +86,23 @@ func rowsApart(m [][]int) bool {
 	return true
 }
 
+// tablesApart replaces the rows of all tables of a result, each by its own one, and reports whether they stay.
+func tablesApart(list [][][]int) bool {
+	for k, m := range list {
+		for i := range m {
+			m[i] = []int{k, i}
+		}
+	}
+	for k, m := range list {
+		for i, row := range m {
+			if !slices.Equal(row, []int{k, i}) {
+				return false
+			}
+		}
+	}
+	return true
+}
+
 // hasSigns tells by the signs that are not 0 whether they begin and end with 1 and alternate.
 func hasSigns(line []int) bool {
 	last := -1

@@ -631,17 +631,8 @@ func TestListedSignsAreNew(t *testing.T) {
 		if !rowsApart(slices.Concat(list...)) {
 			t.Fatalf("AllSigns of %d: rows share memory", n)
 		}
-		for k, m := range list {
-			for i := range m {
-				m[i] = []int{k, i}
-			}
-		}
-		for k, m := range list {
-			for i, row := range m {
-				if !slices.Equal(row, []int{k, i}) {
-					t.Fatalf("AllSigns of %d: matrices share memory", n)
-				}
-			}
+		if !tablesApart(list) {
+			t.Fatalf("AllSigns of %d: matrices share memory", n)
 		}
 		again, ok := impl.AllSigns(n)
 		wantTable(t, named("AllSigns again", n), slices.Concat(again...), ok, slices.Concat(signMatrices(n)...))
