@@ -286,6 +286,13 @@ func wantNumber(t *testing.T, what string, got int, ok bool, want int) {
 	}
 }
 
+// wantAllShared checks that numbers add up to that of all sign matrices of n rows.
+func wantAllShared(t *testing.T, what string, numbers []int, ok bool, n int) {
+	t.Helper()
+	all, fine := impl.CountSigns(n)
+	wantNumber(t, "sum of "+what, sumOfTable([][]int{numbers}), ok && fine, all)
+}
+
 func wantNoTable(t *testing.T, what string, got [][]int, ok bool) {
 	t.Helper()
 	if ok || len(got) != 0 {

@@ -37,6 +37,17 @@ func numberCalls() map[string]func(m [][]int) (int, bool) {
 	}
 }
 
+// wantSignsRequired checks that calls fail with what is no sign matrix.
+func wantSignsRequired(t *testing.T, calls []tableCall) {
+	t.Helper()
+	for _, m := range notSigns() {
+		for _, c := range calls {
+			got, ok := c.call(m)
+			wantNoTable(t, named(c.name, m), got, ok)
+		}
+	}
+}
+
 // upToSide calls check for all sign matrices of 1..MaxSide rows.
 func upToSide(t *testing.T, check func(t *testing.T, m [][]int)) {
 	t.Helper()
@@ -88,13 +99,10 @@ func TestIsSignMatrixBesideSigns(t *testing.T) {
 }
 
 func TestSignMatricesAreRequired(t *testing.T) {
+	wantSignsRequired(t, tableCalls())
 	for _, m := range notSigns() {
 		if impl.IsSignMatrix(m) {
 			t.Errorf("IsSignMatrix of %v: true", m)
-		}
-		for _, c := range tableCalls() {
-			got, ok := c.call(m)
-			wantNoTable(t, named(c.name, m), got, ok)
 		}
 		for name, call := range numberCalls() {
 			if got, ok := call(m); got != 0 || ok {

@@ -496,13 +496,8 @@ func TestCountsAgreeWithLists(t *testing.T) {
 func TestCountsAgreeWithTheFormula(t *testing.T) {
 	for _, c := range countCalls() {
 		for n := 1; n <= c.greatest; n++ {
-			sum := 0
 			counts, ok := c.call(n)
-			for _, count := range counts {
-				sum += count
-			}
-			want, _ := impl.CountSigns(n)
-			wantNumber(t, named("sum of "+c.name, n), sum, ok, want)
+			wantAllShared(t, named(c.name, n), counts, ok, n)
 		}
 	}
 }
@@ -589,6 +584,16 @@ func wantNewMemory(t *testing.T, c tableCall, m [][]int) {
 	again, _ := c.call(argument)
 	fresh, _ := c.call(copyTable(m))
 	wantTable(t, named(c.name, m), again, true, fresh)
+}
+
+// wantNewMemoryOfSigns checks calls with valid and invalid matrices.
+func wantNewMemoryOfSigns(t *testing.T, calls []tableCall) {
+	t.Helper()
+	for _, m := range argumentsOf() {
+		for _, c := range calls {
+			wantNewMemory(t, c, m)
+		}
+	}
 }
 
 func TestNoTriangleIsChanged(t *testing.T) {

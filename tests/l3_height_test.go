@@ -829,11 +829,8 @@ func heightCalls() []tableCall {
 }
 
 func TestChapter3RequiresSigns(t *testing.T) {
+	wantSignsRequired(t, heightCalls())
 	for _, m := range notSigns() {
-		for _, c := range heightCalls() {
-			got, ok := c.call(m)
-			wantNoTable(t, named(c.name, m), got, ok)
-		}
 		if rank, ok := impl.RankOf(m); rank != 0 || ok {
 			t.Errorf("RankOf of %v: %d, %t", m, rank, ok)
 		}
@@ -868,10 +865,8 @@ func TestPairsAreRequired(t *testing.T) {
 }
 
 func TestNoArgumentOfHeightsIsChanged(t *testing.T) {
+	wantNewMemoryOfSigns(t, heightCalls())
 	for _, m := range argumentsOf() {
-		for _, c := range heightCalls() {
-			wantNewMemory(t, c, m)
-		}
 		argument := guarded(m)
 		impl.RankOf(argument)
 		impl.IsJoinPart(argument)
@@ -923,22 +918,26 @@ func TestNoPairIsChanged(t *testing.T) {
 	}
 }
 
-func TestNoPathIsChanged(t *testing.T) {
+// wantCellsKept checks a function of a sign matrix and a list of cells with good and bad lists.
+func wantCellsKept(t *testing.T, name string, call func(m, cells [][]int) ([][]int, bool)) {
+	t.Helper()
 	m := identity(3)
-	for _, path := range [][][]int{
-		nil, {}, {{1, 1}}, {{1, 1}, {2, 2}, {1, 2}}, {{2, 2}, {2, 2}}, {{1, 2}}, {{1}}, {{1, 1, 1}}, {{}}, {nil}, {{0, 3}}, manyFlips(200), manyFlips(201),
+	for _, cells := range [][][]int{
+		nil, {}, {{1, 1}}, {{1, 1}, {2, 2}, {1, 2}}, {{2, 2}, {2, 2}}, {{1, 2}}, {{1}}, {{1, 1, 1}}, {{}}, {nil}, {{0, 3}}, {{1, 1}, {3, 3}}, manyFlips(200), manyFlips(201),
 	} {
-		matrix, argument := guarded(m), guarded(path)
-		got, ok := impl.FollowFlips(matrix, argument)
-		want, fine := impl.FollowFlips(copyTable(m), copyTable(path))
+		matrix, argument := guarded(m), guarded(cells)
+		got, ok := call(matrix, argument)
+		want, fine := call(copyTable(m), copyTable(cells))
 		if ok != fine || !sameTable(got, want) {
-			t.Fatalf("FollowFlips of %v: %v, %t and %v, %t", path, got, ok, want, fine)
+			t.Fatalf("%s of %v: %v, %t and %v, %t", name, cells, got, ok, want, fine)
 		}
-		if !rowsApart(got) || !untouched(matrix, m) || !untouched(argument, path) {
-			t.Fatalf("FollowFlips of %v shares or changes memory", path)
+		if !rowsApart(got) || !untouched(matrix, m) || !untouched(argument, cells) {
+			t.Fatalf("%s of %v shares or changes memory", name, cells)
 		}
 	}
 }
+
+func TestNoPathIsChanged(t *testing.T) { wantCellsKept(t, "FollowFlips", impl.FollowFlips) }
 
 func TestPlacesOfAPathMayShareMemory(t *testing.T) {
 	place := []int{1, 1}

@@ -932,12 +932,7 @@ func TestCountByPattern(t *testing.T) {
 		}
 		counts, ok := impl.CountByPattern(n)
 		wantRow(t, named("CountByPattern", n), counts, ok, want)
-		sum := 0
-		for _, count := range counts {
-			sum += count
-		}
-		all, ok := impl.CountSigns(n)
-		wantNumber(t, named("sum of CountByPattern", n), sum, ok, all)
+		wantAllShared(t, named("CountByPattern", n), counts, ok, n)
 	}
 }
 
@@ -1124,11 +1119,8 @@ func patternCalls() []tableCall {
 }
 
 func TestChapter4RequiresSigns(t *testing.T) {
+	wantSignsRequired(t, lineCalls())
 	for _, m := range notSigns() {
-		for _, c := range lineCalls() {
-			got, ok := c.call(m)
-			wantNoTable(t, named(c.name, m), got, ok)
-		}
 		if l, ok := impl.LoopsOf(m); l.Side != 0 || l.Across != nil || l.Down != nil || ok {
 			t.Errorf("LoopsOf of %v: %v, %t", m, l, ok)
 		}
@@ -1139,10 +1131,8 @@ func TestChapter4RequiresSigns(t *testing.T) {
 }
 
 func TestNoArgumentOfLinesIsChanged(t *testing.T) {
+	wantNewMemoryOfSigns(t, lineCalls())
 	for _, m := range argumentsOf() {
-		for _, c := range lineCalls() {
-			wantNewMemory(t, c, m)
-		}
 		argument := guarded(m)
 		impl.CountClosed(argument)
 		impl.WayFrom(argument, -1)
@@ -1199,12 +1189,17 @@ func TestRowsOfLoopsMayShareMemory(t *testing.T) {
 	}
 }
 
-func TestNoPatternIsChanged(t *testing.T) {
+// patternArguments lists all patterns and lists that are none.
+func patternArguments() [][]int {
 	list := notPatterns()
 	for n := 1; n <= impl.MaxSide; n++ {
 		list = append(list, patternsWanted(n)...)
 	}
-	for _, p := range list {
+	return list
+}
+
+func TestNoPatternIsChanged(t *testing.T) {
+	for _, p := range patternArguments() {
 		for _, c := range patternCalls() {
 			wantNewMemory(t, c, [][]int{p})
 		}
