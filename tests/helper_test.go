@@ -103,6 +103,45 @@ func tablesApart(list [][][]int) bool {
 	return true
 }
 
+// wantNewRows checks that no rows of a result share memory, and that a later call does not find what became of them.
+func wantNewRows(t *testing.T, what string, call func() ([][]int, bool)) {
+	t.Helper()
+	rows, ok := call()
+	want := copyTable(rows)
+	if !rowsApart(rows) {
+		t.Fatalf("%s: rows share memory", what)
+	}
+	again, fine := call()
+	wantTable(t, what+" again", again, ok == fine, want)
+}
+
+// wantNewTables checks the same of a list of tables, which must be the one wanted.
+func wantNewTables(t *testing.T, what string, call func() ([][][]int, bool), want [][][]int) {
+	t.Helper()
+	list, _ := call()
+	if !rowsApart(slices.Concat(list...)) {
+		t.Fatalf("%s: rows share memory", what)
+	}
+	if !tablesApart(list) {
+		t.Fatalf("%s: tables share memory", what)
+	}
+	again, ok := call()
+	if !ok || !sameList(again, want) {
+		t.Fatalf("%s again: %v, %t instead of %v", what, again, ok, want)
+	}
+}
+
+// ofCounts lets a function that makes a list of a number stand among those that make a table of it.
+func ofCounts(call func(n int) ([]int, bool)) func(n int) ([][]int, bool) {
+	return func(n int) ([][]int, bool) {
+		counts, ok := call(n)
+		if len(counts) == 0 {
+			return nil, ok
+		}
+		return [][]int{counts}, ok
+	}
+}
+
 // hasSigns tells by the signs that are not 0 whether they begin and end with 1 and alternate.
 func hasSigns(line []int) bool {
 	last := -1

@@ -632,35 +632,17 @@ func TestNoRowIsChanged(t *testing.T) {
 
 func TestListedSignsAreNew(t *testing.T) {
 	for n := 1; n <= impl.MaxListed; n++ {
-		list, _ := impl.AllSigns(n)
-		if !rowsApart(slices.Concat(list...)) {
-			t.Fatalf("AllSigns of %d: rows share memory", n)
-		}
-		if !tablesApart(list) {
-			t.Fatalf("AllSigns of %d: matrices share memory", n)
-		}
-		again, ok := impl.AllSigns(n)
-		wantTable(t, named("AllSigns again", n), slices.Concat(again...), ok, slices.Concat(signMatrices(n)...))
+		wantNewTables(t, named("AllSigns", n), func() ([][][]int, bool) { return impl.AllSigns(n) }, signMatrices(n))
 	}
 }
 
 func TestCountsAndRanksAreNew(t *testing.T) {
 	for _, c := range countCalls() {
 		for n := 1; n <= c.greatest; n++ {
-			counts, _ := c.call(n)
-			want := slices.Clone(counts)
-			fillWhole(counts, -1)
-			again, ok := c.call(n)
-			wantTable(t, named(c.name, n), [][]int{again}, ok, [][]int{want})
+			wantNewRows(t, named(c.name, n), func() ([][]int, bool) { return ofCounts(c.call)(n) })
 		}
 	}
 	for n := 1; n <= impl.MaxSide; n++ {
-		m, _ := impl.SignsAt(n, 0)
-		want := copyTable(m)
-		if !rowsApart(m) {
-			t.Fatalf("SignsAt of %d: rows share memory", n)
-		}
-		again, ok := impl.SignsAt(n, 0)
-		wantTable(t, named("SignsAt", n), again, ok, want)
+		wantNewRows(t, named("SignsAt", n), func() ([][]int, bool) { return impl.SignsAt(n, 0) })
 	}
 }

@@ -1216,22 +1216,12 @@ func TestNoPatternIsChanged(t *testing.T) {
 func TestListsOfChapter4AreNew(t *testing.T) {
 	for n := 1; n <= impl.MaxSide; n++ {
 		for name, call := range map[string]func(n int) ([][]int, bool){
-			"EndsOf":      impl.EndsOf,
-			"AllPatterns": impl.AllPatterns,
-			"CountByPattern": func(n int) ([][]int, bool) {
-				return ofRow(func([][]int) ([]int, bool) { return impl.CountByPattern(n) })(nil)
-			},
-			"ParsePattern": func(n int) ([][]int, bool) {
-				return ofRow(func([][]int) ([]int, bool) { return impl.ParsePattern(strings.Repeat("()", n)) })(nil)
-			},
+			"EndsOf":         impl.EndsOf,
+			"AllPatterns":    impl.AllPatterns,
+			"CountByPattern": ofCounts(impl.CountByPattern),
+			"ParsePattern":   ofCounts(func(n int) ([]int, bool) { return impl.ParsePattern(strings.Repeat("()", n)) }),
 		} {
-			list, ok := call(n)
-			want := copyTable(list)
-			if !rowsApart(list) {
-				t.Fatalf("%s of %d: rows share memory", name, n)
-			}
-			again, fine := call(n)
-			wantTable(t, named(name, n), again, ok == fine, want)
+			wantNewRows(t, named(name, n), func() ([][]int, bool) { return call(n) })
 		}
 	}
 	for n := 1; n <= 4; n++ {

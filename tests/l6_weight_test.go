@@ -1010,27 +1010,12 @@ func TestNoTableIsChanged(t *testing.T) {
 
 func TestTablesOfCountsAreNew(t *testing.T) {
 	for n := 1; n <= impl.MaxWeighted; n++ {
-		for _, c := range []struct {
-			name string
-			call func(n int) ([][]int, bool)
-		}{
-			{"JointTable", impl.JointTable},
-			{"MinusTable", func(n int) ([][]int, bool) {
-				counts, ok := impl.MinusTable(n)
-				return [][]int{counts}, ok
-			}},
-			{"InversionTable", func(n int) ([][]int, bool) {
-				counts, ok := impl.InversionTable(n)
-				return [][]int{counts}, ok
-			}},
+		for name, call := range map[string]func(n int) ([][]int, bool){
+			"JointTable":     impl.JointTable,
+			"MinusTable":     ofCounts(impl.MinusTable),
+			"InversionTable": ofCounts(impl.InversionTable),
 		} {
-			table, _ := c.call(n)
-			want := copyTable(table)
-			if !rowsApart(table) {
-				t.Fatalf("%s of %d: rows share memory", c.name, n)
-			}
-			again, ok := c.call(n)
-			wantTable(t, named(c.name, n), again, ok, want)
+			wantNewRows(t, named(name, n), func() ([][]int, bool) { return call(n) })
 		}
 	}
 }
